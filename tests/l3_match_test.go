@@ -39,21 +39,6 @@ func badMatchers() map[string]impl.Matcher {
 	return bad
 }
 
-// textsOver are all texts of at most so many of some bytes, the empty one first.
-func textsOver(letters string, most int) []string {
-	all := []string{""}
-	for from, long := 0, 0; long < most; long++ {
-		end := len(all)
-		for _, ahead := range all[from:end] {
-			for _, c := range letters {
-				all = append(all, ahead+string(c))
-			}
-		}
-		from = end
-	}
-	return all
-}
-
 // likeByTrying tries each length for each star.
 func likeByTrying(form string, s string) bool {
 	if form == "" {
@@ -430,29 +415,16 @@ func TestOneByteAmissInMatcherText(t *testing.T) {
 	for _, m := range matchers {
 		text, _ := impl.MatcherText(m)
 		read := 0
-		for at := range len(text) + 1 {
-			var tried []string
-			if at < len(text) {
-				tried = append(tried, text[:at]+text[at+1:])
+		for _, s := range oneByteAmiss(text) {
+			got, ok := impl.ReadMatcher(s)
+			if !ok {
+				wantNoMatcher(t, s)
+				continue
 			}
-			for b := range 256 {
-				c := string([]byte{byte(b)})
-				tried = append(tried, text[:at]+c+text[at:])
-				if at < len(text) && text[at] != byte(b) {
-					tried = append(tried, text[:at]+c+text[at+1:])
-				}
-			}
-			for _, s := range tried {
-				got, ok := impl.ReadMatcher(s)
-				if !ok {
-					wantNoMatcher(t, s)
-					continue
-				}
-				read++
-				back, good := impl.MatcherText(got)
-				if back != s || !good || got == m {
-					t.Errorf("ReadMatcher %q: %v", s, got)
-				}
+			read++
+			back, good := impl.MatcherText(got)
+			if back != s || !good || got == m {
+				t.Errorf("ReadMatcher %q: %v", s, got)
 			}
 		}
 		if read == 0 {
