@@ -564,8 +564,8 @@ func TestListsOfMaxBytesAndMore(t *testing.T) {
 	}
 }
 
-// readPlainly tells what list a text is PutList of, by the library's numbers.
-func readPlainly(s string) ([]int, bool) {
+// numbersPlainly are the numbers whose bytes a text is, by the library.
+func numbersPlainly(s string) ([]uint64, bool) {
 	var read []uint64
 	for rest := []byte(s); len(rest) > 0; {
 		n, long := binary.Uvarint(rest)
@@ -574,18 +574,29 @@ func readPlainly(s string) ([]int, bool) {
 		}
 		read, rest = append(read, n), rest[long:]
 	}
-	if len(s) > impl.MaxBytes || len(read) == 0 || len(read) > mostOfList+1 || read[0] != uint64(len(read)-1) {
+	return read, true
+}
+
+// readPlainly tells what list a text is PutList of, by the library's numbers.
+func readPlainly(s string) ([]int, bool) {
+	read, ok := numbersPlainly(s)
+	if !ok || len(s) > impl.MaxBytes || len(read) == 0 || len(read) > mostOfList+1 || read[0] != uint64(len(read)-1) {
 		return nil, false
 	}
-	var changes []int
-	for _, u := range read[1:] {
+	return listOfChanges(zagsPlainly(read[1:])), true
+}
+
+// zagsPlainly are the numbers with a sign of which others are ZigOf.
+func zagsPlainly(l []uint64) []int {
+	var zags []int
+	for _, u := range l {
 		n := int(u / 2)
 		if u%2 == 1 {
 			n = -n - 1
 		}
-		changes = append(changes, n)
+		zags = append(zags, n)
 	}
-	return listOfChanges(changes), true
+	return zags
 }
 
 // wantAsPlainly is whether a text is read, which it must be just where it comes out again as it was.
