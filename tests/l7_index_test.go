@@ -421,7 +421,7 @@ func sortedIndex(all []int, entries ...impl.Entry) impl.Index {
 }
 
 func TestGoodIndex(t *testing.T) {
-	for what, x := range map[string]impl.Index{
+	good := map[string]impl.Index{
 		"the zero value":               {},
 		"empty lists":                  {Entries: []impl.Entry{}, All: []int{}},
 		"numbers that no entry has":    indexOf([]int{0, 5, 999}),
@@ -436,19 +436,24 @@ func TestGoodIndex(t *testing.T) {
 		"an Is by bytes":               indexOf([]int{1, 2, 3, 4}, entryOf("a", "!", 1), entryOf("a", "10", 2), entryOf("a", "9", 3), entryOf("a", "A", 4)),
 		"Names by bytes":               indexOf([]int{1}, entryOf("_", "x", 1), entryOf("a", "x", 1), entryOf("a0", "x", 1), entryOf("a_", "x", 1), entryOf("aa", "x", 1), entryOf("b", "x", 1)),
 		"a Name and Is of twelve each": indexOf([]int{1}, entryOf("abcdefghijkl", "************", 1)),
-	} {
-		if !impl.GoodIndex(x) {
-			t.Errorf("GoodIndex, %s: false", what)
-		}
 	}
 	for what, c := range goodCarried() {
-		if !impl.GoodIndex(c.index()) {
-			t.Errorf("GoodIndex, %s: false", what)
+		good[what+", carried"] = c.index()
+	}
+	wantGood(t, "GoodIndex", impl.GoodIndex, good, badIndexes())
+}
+
+// wantGood wants a function to tell what is good from what is not.
+func wantGood[T any](t *testing.T, asked string, isGood func(x T) bool, good map[string]T, bad map[string]T) {
+	t.Helper()
+	for what, x := range good {
+		if !isGood(x) {
+			t.Errorf("%s, %s: false", asked, what)
 		}
 	}
-	for what, x := range badIndexes() {
-		if impl.GoodIndex(x) {
-			t.Errorf("GoodIndex, %s: true", what)
+	for what, x := range bad {
+		if isGood(x) {
+			t.Errorf("%s, %s: true", asked, what)
 		}
 	}
 }
