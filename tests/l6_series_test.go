@@ -884,12 +884,6 @@ func samplesToPut(l laid) []impl.Sample {
 	return append([]impl.Sample{last, sampleOf(last.T, staleBits), {T: last.T - 1}, {T: -impl.MaxTime - 1}}, spread(from+1, 10)...)
 }
 
-// withRoom lays something behind the length of a list.
-func withRoom[T any](l []T, behind ...T) ([]T, []T) {
-	room := slices.Concat(l, behind)
-	return room, room[:len(l)]
-}
-
 func TestSeriesAreLeftAsTheyWere(t *testing.T) {
 	check := func(s impl.Series, put []impl.Sample) {
 		t.Helper()
@@ -915,14 +909,6 @@ func TestSeriesAreLeftAsTheyWere(t *testing.T) {
 	}
 	for _, s := range badSeries() {
 		check(s, samplesAt(5, 5, 6, math.MaxInt))
-	}
-}
-
-// scribble writes into all memory that a list has, that behind its length too.
-func scribble[T any](l []T, with T) {
-	l = l[:cap(l)]
-	for i := range l {
-		l[i] = with
 	}
 }
 

@@ -976,8 +976,8 @@ func (g indexArgs) answers() indexAnswers {
 	return a
 }
 
-func (a indexAnswers) shown() string {
-	return fmt.Sprint(a.refs, a.entries, a.words)
+func (g indexArgs) called() string {
+	return fmt.Sprint(g.answers())
 }
 
 // roomy has something behind the length of each list.
@@ -1005,10 +1005,6 @@ func (g indexArgs) shown() string {
 	return text.String()
 }
 
-func whole[T any](l []T) []T {
-	return l[:cap(l)]
-}
-
 func argsForIndexes() []indexArgs {
 	var args []indexArgs
 	add := func(x impl.Index, l []impl.Label, refs []int) {
@@ -1028,36 +1024,10 @@ func argsForIndexes() []indexArgs {
 
 func TestIndexesAreLeftAsTheyWere(t *testing.T) {
 	for _, plain := range argsForIndexes() {
-		for _, given := range []indexArgs{
+		wantLeft(t, indexShown(plain.x), plain,
 			plain.roomy(0, impl.Entry{}, impl.Matcher{}),
-			plain.roomy(999, entryOf("zz", "zz", 999), matcherOf(impl.MtIs, "zz", "zz")),
-		} {
-			were := given.shown()
-			got := given.answers().shown()
-			if want := plain.answers().shown(); got != want {
-				t.Errorf("%s: %.1000s with more behind, %.1000s without", indexShown(plain.x), got, want)
-			}
-			if again := given.answers().shown(); again != got {
-				t.Errorf("%s: %.1000s, then %.1000s", indexShown(plain.x), got, again)
-			}
-			if now := given.shown(); now != were {
-				t.Errorf("%s was written into: %.1000s", indexShown(plain.x), now)
-			}
-		}
+			plain.roomy(999, entryOf("zz", "zz", 999), matcherOf(impl.MtIs, "zz", "zz")))
 	}
-}
-
-// eachHasItsOwn writes into all memory of each list a thing that no other one is given, and looks whether it is still there in the end.
-func eachHasItsOwn[T any](lists [][]T, thing func(i int) T, is func(x T, i int) bool) bool {
-	for i, l := range lists {
-		scribble(l, thing(i))
-	}
-	for i, l := range lists {
-		if slices.ContainsFunc(whole(l), func(x T) bool { return !is(x, i) }) {
-			return false
-		}
-	}
-	return true
 }
 
 func TestAnswersOfIndexesShareNothing(t *testing.T) {

@@ -778,19 +778,7 @@ func argsForTables() []tableArgs {
 
 func TestTablesAreLeftAsTheyWere(t *testing.T) {
 	for _, plain := range argsForTables() {
-		for _, given := range []tableArgs{plain.roomy(impl.Cell{}), plain.roomy(impl.Cell{Ref: 999, Labels: labelsOf("zz", "zz")})} {
-			were := given.shown()
-			got := given.called()
-			if want := plain.called(); got != want {
-				t.Errorf("%s: %.1000s with more behind, %.1000s without", tableShown(plain.t), got, want)
-			}
-			if again := given.called(); again != got {
-				t.Errorf("%s: %.1000s, then %.1000s", tableShown(plain.t), got, again)
-			}
-			if now := given.shown(); now != were {
-				t.Errorf("%s was written into: %.1000s", tableShown(plain.t), now)
-			}
-		}
+		wantLeft(t, tableShown(plain.t), plain, plain.roomy(impl.Cell{}), plain.roomy(impl.Cell{Ref: 999, Labels: labelsOf("zz", "zz")}))
 	}
 }
 
